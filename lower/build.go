@@ -8,8 +8,8 @@ import (
 
 // A builder puts instructions one behind the other. Each is put behind those to which it goes on, but for a loop's head.
 type builder struct {
-	l     []api.Instr
-	spare int // what may still stand there more than once: see afford
+	l    []api.Instr
+	left int // how many bytes of conditions may still be put
 }
 
 func (b *builder) put(i api.Instr) int {

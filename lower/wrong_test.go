@@ -57,62 +57,6 @@ func TestNodesBesideTheRoot(t *testing.T) {
 	}
 }
 
-// TestKidsOfSeveralParents: one that there are several ways to stands there once for each, as long as these are not too many.
-func TestKidsOfSeveralParents(t *testing.T) {
-	wantCond(t, []api.Cond{rel(5, 6), {Kind: api.CAnd, A: 0, B: 0}}, "2 if@5 6<=7 > 1|0; 3 if@5 6<=7 > 2|0; from 3")
-	wantCond(t, []api.Cond{rel(5, 6), {Kind: api.CNot, A: 0}, {Kind: api.COr, A: 0, B: 1}}, "2 if@5 6<=7 > 0|1; 3 if@5 6<=7 > 1|2; from 3")
-	for _, kind := range []int{api.CAnd, api.COr} {
-		l := []api.Cond{rel(5, 6)}
-		for i := range 100 {
-			l = append(l, api.Cond{Kind: kind, A: i, B: i})
-		}
-		is, _ := Lower(api.Func{Body: []api.Stmt{{Kind: api.SIf, C: l[:11]}}})
-		if len(is) != 1<<10 {
-			t.Errorf("11.1: of 2 to 10 ways: %d instructions", len(is))
-		}
-		for n := range l {
-			Lower(api.Func{Body: []api.Stmt{{Kind: api.SIf, C: l[:n]}, {Kind: api.SWhile, C: l[:n]}}})
-		}
-		// Nothing of one that is too much stands there.
-		wantCond(t, l, "from 0")
-	}
-}
-
-// manyWays is a condition whose first node there are 2 to 14 ways to, each by nodes of this kind.
-func manyWays(first api.Cond, by int) []api.Cond {
-	l := []api.Cond{first}
-	for range 14 {
-		kid := len(l) - 1
-		if by == api.CNot {
-			l = append(l, api.Cond{Kind: by, A: kid}, api.Cond{Kind: by, A: kid})
-		}
-		l = append(l, api.Cond{Kind: api.COr, A: max(kid, len(l)-2), B: len(l) - 1})
-	}
-	return l
-}
-
-// TestMuchOfLittle: neither many such conditions, nor such of long sides, make more than can be.
-func TestMuchOfLittle(t *testing.T) {
-	long := make([]api.Expr, 1<<12)
-	for _, first := range []api.Cond{{Kind: api.CRel, X: long}, {Kind: api.CRel, Y: long}, rel(5, 6)} {
-		for _, by := range []int{api.COr, api.CNot} {
-			l := manyWays(first, by)
-			var body []api.Stmt
-			for range 100 {
-				body = append(body, api.Stmt{Kind: api.SIf, C: l[:1+(len(l)-1)/14*3]}, api.Stmt{Kind: api.SIf, C: l})
-			}
-			is, _ := Lower(api.Func{Body: body})
-			all := 0
-			for _, i := range is {
-				all += 1 + len(i.X) + len(i.Y)
-			}
-			if handed := 100 * (2 + len(first.X) + len(first.Y)); all == 0 || all > 2*handed+1<<16 {
-				t.Errorf("R1: %d instructions, %d nodes", len(is), all)
-			}
-		}
-	}
-}
-
 // TestKidsThatAKindHasNot: they are no parents' kids, however many ways there would be.
 func TestKidsThatAKindHasNot(t *testing.T) {
 	l := []api.Cond{rel(5, 6)}
@@ -129,8 +73,8 @@ func TestKidsThatAKindHasNot(t *testing.T) {
 	wantCond(t, l, "2 if@106 8<=9 > 0|1; from 2")
 }
 
-// TestTreesAreNeverTooMuch: long conditions stand there whole, each of them.
-func TestTreesAreNeverTooMuch(t *testing.T) {
+// TestLongConditions: they stand there whole, each of them.
+func TestLongConditions(t *testing.T) {
 	const n = 100_000
 	l := []api.Cond{rel(0, 6)}
 	for i := 1; i < n; i++ {
